@@ -200,7 +200,8 @@ func MulMatVec(m Mat, v Vec) Vec {
 	return Vec{DotVec(m[0], v), DotVec(m[1], v), DotVec(m[2], v)}
 }
 
-// MulMat returns the product of two matrices.
+// MulMat returns the product of two matrices. Its row i is what the columns of n
+// as rows take the row i of m to; the factors of a product may change places.
 func MulMat(m, n Mat) Mat {
 	columns := TransposeMat(n)
 	return Mat{MulMatVec(columns, m[0]), MulMatVec(columns, m[1]), MulMatVec(columns, m[2])}
