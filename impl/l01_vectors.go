@@ -394,6 +394,16 @@ func ReadVec(text string) (Vec, int64) {
 	return v, OK
 }
 
+// linesOf returns the lines of a text that has so many, each one followed by a
+// newline, and reports whether it has.
+func linesOf(text string, count int) ([]string, bool) {
+	lines := strings.Split(text, "\n")
+	if len(lines) != count+1 || lines[count] != "" {
+		return nil, false
+	}
+	return lines[:count], true
+}
+
 // MatText returns the text of a matrix.
 func MatText(m Mat) string {
 	return VecText(m[0]) + "\n" + VecText(m[1]) + "\n" + VecText(m[2]) + "\n"
@@ -401,11 +411,11 @@ func MatText(m Mat) string {
 
 // ReadMat returns the matrix with a text.
 func ReadMat(text string) (Mat, int64) {
-	lines := strings.Split(text, "\n")
-	if len(lines) != 4 || lines[3] != "" {
+	var m Mat
+	lines, ok := linesOf(text, len(m))
+	if !ok {
 		return Mat{}, ErrSyntax
 	}
-	var m Mat
 	for i := range m {
 		row, code := ReadVec(lines[i])
 		if code != OK {
