@@ -119,6 +119,11 @@ func ScaleVec(v Vec, by float32) Vec {
 	return Vec{float32(v[0] * by), float32(v[1] * by), float32(v[2] * by)}
 }
 
+// divideVec returns the quotients by a number.
+func divideVec(v Vec, by float32) Vec {
+	return Vec{v[0] / by, v[1] / by, v[2] / by}
+}
+
 // DotVec returns the sum of the products. It begins with the first one, not
 // with 0, which would turn -0 into 0.
 func DotVec(u, v Vec) float32 {
@@ -145,7 +150,7 @@ func UnitOf(v Vec) (Vec, int64) {
 	if length == 0 || !isFinite(length) {
 		return Vec{}, ErrState
 	}
-	return Vec{v[0] / length, v[1] / length, v[2] / length}, OK
+	return divideVec(v, length), OK
 }
 
 // AreNear reports whether two vectors are near.
