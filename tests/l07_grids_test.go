@@ -266,6 +266,16 @@ func TestGridsOfMarks(t *testing.T) {
 	wantUnder(t, "low is taken away", marksAt(point{-1, 0.5}), point{-1.5, 0}, 1, "#..", "...")
 }
 
+// TestGreatGridsOfMarks has marks in the last column and row that there may be, and
+// behind them.
+func TestGreatGridsOfMarks(t *testing.T) {
+	want := impl.Grid{Wide: 24, High: 24, Costs: make([]uint8, 576)}
+	want.Costs[23], want.Costs[23*24], want.Costs[575] = 255, 255, 255
+	m := marksAt(point{23.5, 0}, point{0, 23}, point{23, 23.75}, point{24, 1}, point{1, 24}, point{24, 24})
+	g, code := impl.GridOfMarks(m, 24, 24, point{}, 1)
+	wantGrid(t, "GridOfMarks of the greatest size", g, code, want, impl.OK)
+}
+
 func TestGridsOfMarksAgain(t *testing.T) {
 	d := &dice{seed: 302}
 	walls := 0

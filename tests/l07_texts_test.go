@@ -79,7 +79,7 @@ func TestTextsOfGridsAgain(t *testing.T) {
 func TestNoTextsOfGrids(t *testing.T) {
 	wide := strings.Repeat(".", 24)
 	for _, text := range []string{
-		"", "\n", "\n\n", ".", "#", "..", ".\n\n", "\n.\n", ".\n.", ".\n..\n", "..\n.\n", "..\n..\n.\n", "..\n\n..\n", "..\n..\n\n", "...\n..\n...\n",
+		"", "\n", "\n\n", ".", "#", "..", ".\n\n", "\n.\n", ".\n.", ".\n..\n", "..\n.\n", "..\n..\n.\n", "..\n\n..\n", "..\n..\n\n", "...\n..\n...\n", "..\n.\n...\n", "..\n...\n.\n", "..\n....\n\n", "..\n\n....\n",
 		"?\n", "0\n", ".?\n", "?.\n", ".0\n", ".a\n", ".A\n", ". \n", " .\n", ".\t\n", ".\r\n", ".\n \n", ".\x00\n", ".:\n", "./\n", ".-\n", "..\u00b9\n", ".\n..", "10\n", "250\n", ".,.\n", ". .\n", "@\n", "!\n", "\"\n", "$\n",
 		wide + ".\n", wide + wide + "\n", strings.Repeat(".\n", 25), strings.Repeat(wide+"\n", 25), strings.Repeat(wide+".\n", 24), strings.Repeat(wide+"\n", 24) + "\n", strings.Repeat(wide+"\n", 23) + wide, strings.Repeat(wide+"\n", 23) + wide[1:] + "\n",
 	} {
