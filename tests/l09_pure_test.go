@@ -8,7 +8,6 @@ import (
 	"strings"
 	"sync"
 	"testing"
-	"time"
 
 	"loop.example/g01204/impl"
 )
@@ -164,11 +163,11 @@ func TestNoVehicleIsLeft(t *testing.T) {
 		a := d.anyFleet()
 		a.answers()
 	}
-	for range 1000 { // one that is done may be counted a moment longer
+	for range 1000000 { // one that is done may be counted a moment longer
 		if runtime.NumGoroutine() <= before {
 			return
 		}
-		time.Sleep(time.Millisecond)
+		runtime.Gosched()
 	}
 	t.Errorf("%d goroutines before, and %d behind", before, runtime.NumGoroutine())
 }
