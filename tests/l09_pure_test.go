@@ -155,21 +155,39 @@ func TestFleetsAtTheSameTime(t *testing.T) {
 	}
 }
 
-// TestNoVehicleIsLeft counts the goroutines: none goes on behind a call.
+// TestNoVehicleIsLeft counts the goroutines: none goes on behind a call. There is one
+// processor, so that those that are not waited for have not run yet when the call has
+// returned; now and then the machine may stop one that is just about to end.
 func TestNoVehicleIsLeft(t *testing.T) {
+	defer runtime.GOMAXPROCS(runtime.GOMAXPROCS(1))
 	d := &dice{seed: 542}
-	before := runtime.NumGoroutine()
+	before, left := runtime.NumGoroutine(), 0
+	look := func() {
+		if runtime.NumGoroutine() > before {
+			left++
+		}
+		for range 1000 {
+			runtime.Gosched()
+		}
+	}
 	for range 300 {
 		a := d.anyFleet()
-		a.answers()
+		a.f = rowFleet(4, 2)
+		impl.YardAfter(a.f, a.deeds)
+		look()
+		impl.RefusedDeed(a.f, a.deeds)
+		look()
+		impl.MapOf(a.f, a.deeds, a.vehicle)
+		look()
+		impl.AreAgreed(a.f, a.deeds)
+		look()
+		impl.FinishDeeds(a.f, a.deeds)
+		look()
+		impl.RunScript(a.f, a.script)
+		look()
+		wantBool(t, "none is there a moment later", runtime.NumGoroutine() <= before, true)
 	}
-	for range 1000000 { // one that is done may be counted a moment longer
-		if runtime.NumGoroutine() <= before {
-			return
-		}
-		runtime.Gosched()
-	}
-	t.Errorf("%d goroutines before, and %d behind", before, runtime.NumGoroutine())
+	wantBool(t, fmt.Sprint("goroutines behind a call: ", left), left < 60, true)
 }
 
 // TestEverySpecialNumberOfFleets puts each special number into each place: nothing
@@ -235,19 +253,24 @@ func TestLongFleets(t *testing.T) {
 	a.answers()
 }
 
-// TestYardsAreTheirOwn changes a yard behind another one, and a fleet behind its yard.
+// TestYardsAreTheirOwn changes a fleet behind its yard, and maps of a yard behind others.
 func TestYardsAreTheirOwn(t *testing.T) {
-	f := rowFleet(2, 3)
-	deeds := deedsOf("see 0; see 0; save 0; send 0 1; copy 0; see 1; save 1; crash 0; crash 1")
-	k, wantedDone, _, _ := depotAfter(fleetLike(f), deeds)
-	y, done, code := impl.YardAfter(f, deeds)
-	f.Sights[0][0].At, deeds[0] = impl.Vec{9, 9, 9}, impl.Deed{}
-	wantYard(t, "YardAfter", y, done, code, k.yard(), wantedDone, impl.OK)
-	for v := range y.Minds { // no two maps of a yard share memory
-		y.Minds[v].Map.Marks[0].Seen = 77
-		wantBool(t, "what is saved stays", y.Saved[v].Map.Marks[0].Seen == 1, true)
-		for i := range y.Minds {
-			wantBool(t, "other minds stay", i <= v || y.Minds[i].Map.Marks[0].Seen == 1, true)
+	for _, text := range []string{"save 0; save 1", "save 0; save 1; crash 0; crash 1", "save 0; save 1; crash 0; crash 1; save 0; save 1", "save 0; crash 0; save 1"} {
+		f := rowFleet(2, 3)
+		deeds := deedsOf("see 0; see 0; send 0 1; copy 0; see 1; " + text)
+		k, wantedDone, _, _ := depotAfter(fleetLike(f), deeds)
+		y, done, code := impl.YardAfter(f, deeds)
+		f.Sights[0][0].At, deeds[0] = impl.Vec{9, 9, 9}, impl.Deed{}
+		wantYard(t, "YardAfter", y, done, code, k.yard(), wantedDone, impl.OK)
+		var marks []*impl.Mark
+		for v := range y.Minds {
+			marks = append(marks, &y.Minds[v].Map.Marks[0], &y.Saved[v].Map.Marks[0])
+		}
+		for i, x := range marks {
+			x.Seen = int64(100 + i)
+		}
+		for i, x := range marks {
+			wantBool(t, "a map of its own behind "+text, x.Seen == int64(100+i), true)
 		}
 	}
 }
